@@ -1058,10 +1058,10 @@ func TestVolumeWriteMakesBlocksHot(t *testing.T) {
 	})
 }
 
-// roomFor returns whether a frame with so many values has room in the current zone with so many words, with so many free zones,
-// as the document says it: at least one free zone must be left.
-func roomFor(pairs int, words int, free int) bool {
-	if words+4+2*pairs <= zoneSize {
+// roomFor returns whether a frame with so many words has room behind some words of the current zone, with so many free zones, as
+// the document says it: at least one free zone must be left.
+func roomFor(size int, words int, free int) bool {
+	if words+size <= zoneSize {
 		return free >= 1
 	}
 	return free >= 2
@@ -1078,7 +1078,7 @@ func TestVolumeWriteNeedsFreeZones(t *testing.T) {
 				for pairs := 1; pairs <= pairMax; pairs++ {
 					got, code := wantVolumeWrite(t, v, pairsFrom(3, pairs, 7))
 					free := zones - 1 - len(others)
-					if (code == volDone) != roomFor(pairs, words, free) {
+					if (code == volDone) != roomFor(4+2*pairs, words, free) {
 						t.Fatalf("VolumeWrite(%v) of %d values returned %d; %d zones are free", v, pairs, code, free)
 					}
 					fits := words+4+2*pairs <= zoneSize

@@ -1119,17 +1119,22 @@ func TestRecoveryKeepsArgumentsAndSharesNoMemory(t *testing.T) {
 	}
 }
 
+// checkNumbers requires that a call with a volume and numbers does not change these, and that its result does not have them.
+func checkNumbers(t *testing.T, name string, call func(impl.Volume, []int) (impl.Volume, int), v impl.Volume, list []int) {
+	t.Helper()
+	memory := append(slices.Clone(list), 44, 45, 46)
+	kept := slices.Clone(memory)
+	got, code := call(v, memory[:len(list)])
+	want := copiedVolume(got)
+	wantList(t, memory, kept, "the numbers for %s", name)
+	fill(memory)
+	wantVolume(t, got, code, want, code, "%s(%v, %v)", name, v, list)
+}
+
 // General rules: the numbers of words to keep are not changed and not kept, also if they share memory with the volume.
 func TestVolumeCrashKeepsItsNumbers(t *testing.T) {
 	for _, list := range [][]int{nil, {0, 0, 0}, {0, 0, 0, 0}, {1, 9, 3, 4}, {99, 99, 99, 99}, {1, 2, 3, -4}, {1, 2, 3, 4, 5}} {
-		v := knownVolume()
-		memory := append(slices.Clone(list), 44, 45, 46)
-		kept := slices.Clone(memory)
-		got, code := impl.VolumeCrash(v, memory[:len(list)])
-		want := copiedVolume(got)
-		wantList(t, memory, kept, "the numbers to keep")
-		fill(memory)
-		wantVolume(t, got, code, want, code, "VolumeCrash(%v, %v)", v, list)
+		checkNumbers(t, "VolumeCrash", impl.VolumeCrash, knownVolume(), list)
 	}
 	for from := range 18 {
 		v := knownVolume()
