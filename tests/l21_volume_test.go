@@ -1424,20 +1424,27 @@ func inOnePiece(v impl.Volume) impl.Volume {
 	return c
 }
 
+// checkSharing requires that a call returns the same of a volume whose parts share memory, and does not change it, and that the
+// parts of what it returns share none.
+func checkSharing(t *testing.T, name string, call func(impl.Volume, []impl.Pair) (impl.Volume, int), apart impl.Volume, list []impl.Pair) {
+	t.Helper()
+	sharing := inOnePiece(apart)
+	want, code := call(apart, list)
+	got, again := call(sharing, list)
+	wantVolume(t, got, again, want, code, "%s", name)
+	checkVolumeApart(t, name, got)
+	if !sameVolume(sharing, apart) {
+		t.Fatalf("%s left %v; want %v", name, sharing, apart)
+	}
+}
+
 // General rules: the parts of a volume may share memory in the argument, and do not in the result.
 func TestVolumesThatShareMemoryInTheArguments(t *testing.T) {
 	full := crowdedVolume(1, 60, []int{0, 2, 3}, 30)
 	for name, call := range volumeCalls() {
 		for _, apart := range []impl.Volume{knownVolume(), full, crowdedVolume(2, 60, nil, 30), crowdedVolume(1, 20, []int{3}, seqMax)} {
 			for _, list := range [][]impl.Pair{nil, pairsFrom(1, 2, 5)} {
-				sharing := inOnePiece(apart)
-				want, code := call(apart, list)
-				got, again := call(sharing, list)
-				wantVolume(t, got, again, want, code, "%s", name)
-				checkVolumeApart(t, name, got)
-				if !sameVolume(sharing, apart) {
-					t.Fatalf("%s left %v; want %v", name, sharing, apart)
-				}
+				checkSharing(t, name, call, apart, list)
 			}
 		}
 	}

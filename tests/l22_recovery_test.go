@@ -1150,14 +1150,7 @@ func TestVolumeCrashKeepsItsNumbers(t *testing.T) {
 func TestRecoveryOfPartsThatShareMemory(t *testing.T) {
 	for name, call := range recoveryCalls() {
 		for _, apart := range []impl.Volume{knownVolume(), crowdedVolume(1, 60, []int{0, 2, 3}, 30), crowdedVolume(2, 60, nil, 30)} {
-			sharing := inOnePiece(apart)
-			want, code := call(apart, nil)
-			got, again := call(sharing, nil)
-			wantVolume(t, got, again, want, code, "%s", name)
-			checkVolumeApart(t, name, got)
-			if !sameVolume(sharing, apart) {
-				t.Fatalf("%s left %v; want %v", name, sharing, apart)
-			}
+			checkSharing(t, name, call, apart, nil)
 		}
 	}
 	// Two zones have the same words, and one of them begins behind the frames.

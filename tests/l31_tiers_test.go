@@ -146,13 +146,19 @@ func wantCode(t *testing.T, m move, v impl.Volume, list []int, code int) impl.Vo
 	return got
 }
 
+// wantOf requires what a function returns of a volume, and returns it.
+func wantOf(t *testing.T, name string, v impl.Volume, call, model func(impl.Volume) (impl.Volume, int)) (impl.Volume, int) {
+	t.Helper()
+	want, wantCode := model(v)
+	got, code := call(v)
+	wantVolume(t, got, code, want, wantCode, "%s(%v)", name, v)
+	return got, code
+}
+
 // wantSweep requires what VolumeSweep returns, and returns it.
 func wantSweep(t *testing.T, v impl.Volume) (impl.Volume, int) {
 	t.Helper()
-	want, wantCode := afterSweep(v)
-	got, code := impl.VolumeSweep(v)
-	wantVolume(t, got, code, want, wantCode, "VolumeSweep(%v)", v)
-	return got, code
+	return wantOf(t, "VolumeSweep", v, impl.VolumeSweep, afterSweep)
 }
 
 // differentPairs returns values of some blocks, all of them different, that do not ascend.
@@ -1041,29 +1047,38 @@ func TestCrashesAfterMovesOfSyncedVolumes(t *testing.T) {
 	}
 }
 
-// A crash after a move of a volume that was not synced leads to the values to which a crash ahead of the move leads, or to those
-// of the move if it changed the zone, as all words ahead of it last then.
+// wantEarlierCrashes requires that crashes after a function that changes no value lead to the values to which crashes ahead of it
+// lead, or to those of the volume itself if the zone was changed, as all words ahead of this last then. It returns how many of
+// the crashes lead to earlier values.
+func wantEarlierCrashes(t *testing.T, name string, v impl.Volume, after impl.Volume) int {
+	t.Helper()
+	less := 0
+	wantCrashes(t, after, func(got impl.Volume, code int, many int) {
+		keep := slices.Repeat([]int{zoneSize}, zones)
+		if after.Zone == v.Zone {
+			keep = keeping(v.Zone, many)
+		}
+		ahead, wantCode := impl.VolumeCrash(v, keep)
+		if code != wantCode {
+			t.Fatalf("after %s of %v, VolumeCrash with %d words returned %d; ahead of it, %d", name, v, many, code, wantCode)
+		}
+		wantList(t, impl.VolumeAll(got), impl.VolumeAll(ahead), "VolumeAll after %s of %v and VolumeCrash with %d words", name, v, many)
+		if !slices.Equal(impl.VolumeAll(got), impl.VolumeAll(v)) {
+			less++
+		}
+	})
+	return less
+}
+
+// A crash after a move of a volume that was not synced leads to the values to which a crash ahead of the move leads.
 func TestCrashesAfterMovesOfOtherVolumes(t *testing.T) {
 	for _, m := range moves {
 		less, calls := 0, 0
-		doneMoves(t, m, 80, func(v impl.Volume, list []int, after impl.Volume) {
+		doneMoves(t, m, 80, func(v impl.Volume, _ []int, after impl.Volume) {
 			if calls++; calls%4 > 0 {
 				return
 			}
-			wantCrashes(t, after, func(got impl.Volume, code int, many int) {
-				keep := slices.Repeat([]int{zoneSize}, zones)
-				if after.Zone == v.Zone {
-					keep = keeping(v.Zone, many)
-				}
-				ahead, wantCode := impl.VolumeCrash(v, keep)
-				if code != wantCode {
-					t.Fatalf("after %s(%v, %v), VolumeCrash with %d words returned %d; ahead of it, %d", m.name, v, list, many, code, wantCode)
-				}
-				wantList(t, impl.VolumeAll(got), impl.VolumeAll(ahead), "VolumeAll after %s(%v, %v) and VolumeCrash with %d words", m.name, v, list, many)
-				if !slices.Equal(impl.VolumeAll(got), impl.VolumeAll(v)) {
-					less++
-				}
-			})
+			less += wantEarlierCrashes(t, m.name, v, after)
 		})
 		if less < 300 {
 			t.Errorf("after %s, crashes led to earlier values %d times; want at least 300", m.name, less)
@@ -1172,17 +1187,19 @@ func randomTierCall(r *rand.Rand, v impl.Volume) (string, impl.Volume, int, impl
 	return randomCall(r, v)
 }
 
-// Promises 118 to 130: whatever is done one after the other, each volume is valid and has the values that were written last, no
-// earlier one changes, and a crash leads to values that the volume had at some time since all of its words lasted.
-func TestManyMovesOneAfterTheOther(t *testing.T) {
-	r := rand.New(rand.NewPCG(85, 86))
+// manyCalls calls functions with volumes, one after the other, with a crash now and then and something that makes room, and returns
+// how often each one returned each code. It requires what they return, that each volume is valid and has the values that were
+// written last, that no earlier one changes, and that a crash leads to values that the volume had at some time since all of its
+// words lasted.
+func manyCalls(t *testing.T, r *rand.Rand, call func(*rand.Rand, impl.Volume) (string, impl.Volume, int, impl.Volume, int), makeRoom func(impl.Volume) impl.Volume) map[string]int {
+	t.Helper()
 	seen := map[string]int{}
 	for range 30 {
 		v, _ := impl.VolumeFormat(make([]impl.Zone, zones))
 		past := [][]int{impl.VolumeAll(v)}
 		for range 100 {
 			before := copiedVolume(v)
-			name, got, code, want, wantCode := randomTierCall(r, v)
+			name, got, code, want, wantCode := call(r, v)
 			wantVolume(t, got, code, want, wantCode, "%s of %v", name, before)
 			if seen[fmt.Sprint(name, code)]++; !sameVolume(v, before) || !impl.VolumeValid(got) {
 				t.Fatalf("%s of %v returned %v, and left %v", name, before, got, v)
@@ -1202,11 +1219,22 @@ func TestManyMovesOneAfterTheOther(t *testing.T) {
 			if v = got; r.IntN(12) == 0 {
 				v, past = opened, [][]int{values}
 			}
-			if impl.VolumeFree(v) < 2 {
-				v, past = afterCollect(v), [][]int{impl.VolumeAll(v)}
+			if more := makeRoom(v); !sameVolume(more, v) {
+				v, past = more, [][]int{impl.VolumeAll(v)}
 			}
 		}
 	}
+	return seen
+}
+
+// Promises 118 to 130: whatever is done one after the other. What the next chapter does to a volume is done by these tests.
+func TestManyMovesOneAfterTheOther(t *testing.T) {
+	seen := manyCalls(t, rand.New(rand.NewPCG(85, 86)), randomTierCall, func(v impl.Volume) impl.Volume {
+		if impl.VolumeFree(v) < 2 {
+			return afterCollect(v)
+		}
+		return v
+	})
 	for _, name := range []string{"VolumePack0", "VolumePack1", "VolumePack2", "VolumeDemote0", "VolumeDemote1", "VolumeDemote2", "VolumePromote0", "VolumePromote2", "VolumeSweep0", "VolumeSweep2"} {
 		if seen[name] < 20 {
 			t.Errorf("%s was seen %d times; want at least 20 of %v", name, seen[name], seen)
@@ -1276,14 +1304,7 @@ func TestTiersOfPartsThatShareMemory(t *testing.T) {
 	full := stocked(endedVolume(1, 60, []int{0, 2, 3}, lastHot(30)), objectMax, false)
 	for name, call := range tierCalls() {
 		for _, apart := range []impl.Volume{hotVolume(nil), coldVolume(), knownVolume(), full, endedVolume(2, 60, nil, lastCold(30)), endedVolume(1, 40, nil, lastHot(seqMax))} {
-			sharing := inOnePiece(apart)
-			want, code := call(apart, nil)
-			got, again := call(sharing, nil)
-			wantVolume(t, got, again, want, code, "%s", name)
-			checkVolumeApart(t, name, got)
-			if !sameVolume(sharing, apart) {
-				t.Fatalf("%s left %v; want %v", name, sharing, apart)
-			}
+			checkSharing(t, name, call, apart, nil)
 		}
 	}
 	// Two objects have the same values, and one of them begins behind the other one.
